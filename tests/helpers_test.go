@@ -30,6 +30,38 @@ func wantFault(t *testing.T, call string, got int64, code int64, want int64) {
 	}
 }
 
+// wantList checks a list and a code that a call has returned.
+func wantList(t *testing.T, call string, got []int64, code int64, want []int64) {
+	t.Helper()
+	if !slices.Equal(got, want) || code != impl.ErrNone {
+		t.Errorf("%s = %v, code %d; want %v", call, got, code, want)
+	}
+}
+
+// wantNone checks that a call has returned an error code and no list.
+func wantNone[T any](t *testing.T, call string, got []T, code int64, want int64) {
+	t.Helper()
+	if len(got) != 0 || code != want {
+		t.Errorf("%s = %v, code %d; want none, code %d", call, got, code, want)
+	}
+}
+
+// wantText checks a text and a code that a call has returned.
+func wantText(t *testing.T, call string, got string, code int64, want string) {
+	t.Helper()
+	if got != want || code != impl.ErrNone {
+		t.Errorf("%s = %q, code %d; want %q", call, got, code, want)
+	}
+}
+
+// must leaves nothing of a result beside an error code.
+func must[T any](list []T, code int64) []T {
+	if code != impl.ErrNone {
+		return nil
+	}
+	return list
+}
+
 // wantRows checks a list of lists and a code that a call has returned.
 func wantRows(t *testing.T, call string, got [][]int64, code int64, want [][]int64) {
 	t.Helper()

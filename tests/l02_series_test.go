@@ -42,22 +42,6 @@ func evaluated(a []int64, z int64) ([]int64, int64) {
 	return []int64{value}, code
 }
 
-// wantSeries checks a series and a code that a call has returned.
-func wantSeries(t *testing.T, call string, got []int64, code int64, want []int64) {
-	t.Helper()
-	if !slices.Equal(got, want) || code != impl.ErrNone {
-		t.Errorf("%s = %v, code %d; want %v", call, got, code, want)
-	}
-}
-
-// wantNoSeries checks that a call has returned an error code and no series.
-func wantNoSeries(t *testing.T, call string, got []int64, code int64, want int64) {
-	t.Helper()
-	if len(got) != 0 || code != want {
-		t.Errorf("%s = %v, code %d; want none, code %d", call, got, code, want)
-	}
-}
-
 // notSeries are lists that are none: without coefficients, with one too many, and with integers
 // that are not numbers. Most of them begin so that the functions find ErrState as well.
 func notSeries() [][]int64 {
@@ -138,14 +122,6 @@ func forLengths(seed drawer, check func(draw *drawer, length int)) {
 	}
 }
 
-// must drops the code of a call that another test checks.
-func must(list []int64, code int64) []int64 {
-	if code != impl.ErrNone {
-		return nil
-	}
-	return list
-}
-
 func TestIsSeries(t *testing.T) {
 	if impl.MaxTerms != 16 {
 		t.Errorf("MaxTerms = %d", impl.MaxTerms)
@@ -169,32 +145,32 @@ func TestIsSeries(t *testing.T) {
 
 func TestSeriesExamples(t *testing.T) {
 	a, code := impl.ScaleSeries([]int64{1, 1, 1}, 2)
-	wantSeries(t, "ScaleSeries", a, code, []int64{1, 2, 4})
+	wantList(t, "ScaleSeries", a, code, []int64{1, 2, 4})
 	a, code = impl.MultiplySeries([]int64{1, 1, 0}, []int64{1, 1, 0})
-	wantSeries(t, "MultiplySeries", a, code, []int64{1, 2, 1})
+	wantList(t, "MultiplySeries", a, code, []int64{1, 2, 1})
 	a, code = impl.DivideSeries([]int64{1, 0, 0}, []int64{1, 10006, 0})
-	wantSeries(t, "DivideSeries", a, code, []int64{1, 1, 1})
+	wantList(t, "DivideSeries", a, code, []int64{1, 1, 1})
 	a, code = impl.IntegrateSeries([]int64{1, 1, 1})
-	wantSeries(t, "IntegrateSeries", a, code, []int64{0, 1, half})
+	wantList(t, "IntegrateSeries", a, code, []int64{0, 1, half})
 	a, code = impl.ExpSeries([]int64{0, 1, 0})
-	wantSeries(t, "ExpSeries", a, code, []int64{1, 1, half})
+	wantList(t, "ExpSeries", a, code, []int64{1, 1, half})
 	a, code = impl.PowerOfSeries([]int64{1, 2, 1}, half)
-	wantSeries(t, "PowerOfSeries", a, code, []int64{1, 1, 0})
+	wantList(t, "PowerOfSeries", a, code, []int64{1, 1, 0})
 	a, code = impl.ReverseSeries([]int64{0, 1, 1})
-	wantSeries(t, "ReverseSeries", a, code, []int64{0, 1, 10006})
+	wantList(t, "ReverseSeries", a, code, []int64{0, 1, 10006})
 }
 
 func TestAddAndMultiplySeries(t *testing.T) {
 	forLengths(11, func(draw *drawer, length int) {
 		a, b := draw.drawn(length), draw.drawn(length)
 		got, code := impl.AddSeries(a, b)
-		wantSeries(t, fmt.Sprintf("AddSeries(%v, %v)", a, b), got, code, plainSum(a, 1, b))
+		wantList(t, fmt.Sprintf("AddSeries(%v, %v)", a, b), got, code, plainSum(a, 1, b))
 		got, code = impl.MultiplySeries(a, b)
-		wantSeries(t, fmt.Sprintf("MultiplySeries(%v, %v)", a, b), got, code, plainSeries(a, b))
+		wantList(t, fmt.Sprintf("MultiplySeries(%v, %v)", a, b), got, code, plainSeries(a, b))
 		got, code = impl.MultiplySeries(a, a)
-		wantSeries(t, fmt.Sprintf("MultiplySeries(%v, the same)", a), got, code, plainSeries(a, a))
+		wantList(t, fmt.Sprintf("MultiplySeries(%v, the same)", a), got, code, plainSeries(a, a))
 		got, code = impl.MultiplySeries(unit(length), a)
-		wantSeries(t, fmt.Sprintf("MultiplySeries(the unit, %v)", a), got, code, a)
+		wantList(t, fmt.Sprintf("MultiplySeries(the unit, %v)", a), got, code, a)
 	})
 }
 
@@ -209,7 +185,7 @@ func TestScaleAndEvaluateSeries(t *testing.T) {
 				power = power * k % prime
 			}
 			got, code := impl.ScaleSeries(a, k)
-			wantSeries(t, fmt.Sprintf("ScaleSeries(%v, %d)", a, k), got, code, want)
+			wantList(t, fmt.Sprintf("ScaleSeries(%v, %d)", a, k), got, code, want)
 			value, code := impl.EvaluateSeries(a, k)
 			wantNumber(t, fmt.Sprintf("EvaluateSeries(%v, %d)", a, k), value, code, sum%prime)
 		}
@@ -221,7 +197,7 @@ func TestDivideSeries(t *testing.T) {
 		for _, first := range []int64{1, prime - 1, 2, 1 + draw.below(prime-1)} {
 			a, b := draw.drawn(length), draw.drawn(length, first)
 			got, code := impl.DivideSeries(plainSeries(a, b), b)
-			wantSeries(t, fmt.Sprintf("DivideSeries(%v times b, %v)", a, b), got, code, a)
+			wantList(t, fmt.Sprintf("DivideSeries(%v times b, %v)", a, b), got, code, a)
 			got, code = impl.DivideSeries(a, b)
 			if code != impl.ErrNone || len(got) != length || !slices.Equal(plainSeries(got, b), a) {
 				t.Errorf("DivideSeries(%v, %v) = %v, code %d", a, b, got, code)
@@ -238,9 +214,9 @@ func TestDeriveAndIntegrateSeries(t *testing.T) {
 			want[n-1] = int64(n) * a[n] % prime
 		}
 		got, code := impl.DeriveSeries(a)
-		wantSeries(t, fmt.Sprintf("DeriveSeries(%v)", a), got, code, want)
+		wantList(t, fmt.Sprintf("DeriveSeries(%v)", a), got, code, want)
 		back, code := impl.IntegrateSeries(got)
-		wantSeries(t, fmt.Sprintf("IntegrateSeries(%v)", got), back, code, begun(slices.Clone(a), 0))
+		wantList(t, fmt.Sprintf("IntegrateSeries(%v)", got), back, code, begun(slices.Clone(a), 0))
 		for n := range want {
 			want[n] = 0
 			if n > 0 {
@@ -248,10 +224,10 @@ func TestDeriveAndIntegrateSeries(t *testing.T) {
 			}
 		}
 		got, code = impl.IntegrateSeries(a)
-		wantSeries(t, fmt.Sprintf("IntegrateSeries(%v)", a), got, code, want)
+		wantList(t, fmt.Sprintf("IntegrateSeries(%v)", a), got, code, want)
 		a[length-1] = 0
 		back, code = impl.DeriveSeries(got)
-		wantSeries(t, fmt.Sprintf("DeriveSeries(%v)", got), back, code, a)
+		wantList(t, fmt.Sprintf("DeriveSeries(%v)", got), back, code, a)
 	})
 }
 
@@ -261,13 +237,13 @@ func TestExponentialsAndLogarithms(t *testing.T) {
 	forLengths(15, func(draw *drawer, length int) {
 		a, b, c := draw.drawn(length, 1), draw.drawn(length, 0), draw.drawn(length, 0)
 		got, code := impl.ExpSeries(b)
-		wantSeries(t, fmt.Sprintf("ExpSeries(%v)", b), got, code, plainComposition(plainExponential(length), b))
+		wantList(t, fmt.Sprintf("ExpSeries(%v)", b), got, code, plainComposition(plainExponential(length), b))
 		back, code := impl.LogSeries(got)
-		wantSeries(t, fmt.Sprintf("LogSeries(ExpSeries(%v))", b), back, code, b)
+		wantList(t, fmt.Sprintf("LogSeries(ExpSeries(%v))", b), back, code, b)
 		back, code = impl.ExpSeries(must(impl.LogSeries(a)))
-		wantSeries(t, fmt.Sprintf("ExpSeries(LogSeries(%v))", a), back, code, a)
+		wantList(t, fmt.Sprintf("ExpSeries(LogSeries(%v))", a), back, code, a)
 		sum, code := impl.ExpSeries(plainSum(b, 1, c))
-		wantSeries(t, fmt.Sprintf("ExpSeries of the sum of %v and %v", b, c), sum, code, plainSeries(got, must(impl.ExpSeries(c))))
+		wantList(t, fmt.Sprintf("ExpSeries of the sum of %v and %v", b, c), sum, code, plainSeries(got, must(impl.ExpSeries(c))))
 	})
 }
 
@@ -278,24 +254,24 @@ func TestLogSeriesOfSimpleOnes(t *testing.T) {
 			want[n], _ = impl.NumberOf(int64(2*(n%2)-1), int64(n))
 		}
 		got, code := impl.LogSeries(begun(make([]int64, length), 1, 1))
-		wantSeries(t, "LogSeries of 1 + z", got, code, want)
+		wantList(t, "LogSeries of 1 + z", got, code, want)
 		got, code = impl.LogSeries(unit(length))
-		wantSeries(t, "LogSeries of the unit", got, code, make([]int64, length))
+		wantList(t, "LogSeries of the unit", got, code, make([]int64, length))
 		got, code = impl.ExpSeries(make([]int64, length))
-		wantSeries(t, "ExpSeries of 0", got, code, unit(length))
+		wantList(t, "ExpSeries of 0", got, code, unit(length))
 	}
 }
 
 func TestExponentialTo(t *testing.T) {
 	for n := range impl.MaxTerms {
 		got, code := impl.ExponentialTo(int64(n))
-		wantSeries(t, fmt.Sprintf("ExponentialTo(%d)", n), got, code, plainExponential(n+1))
+		wantList(t, fmt.Sprintf("ExponentialTo(%d)", n), got, code, plainExponential(n+1))
 		again, code := impl.ExpSeries(variable(n + 1))
-		wantSeries(t, fmt.Sprintf("ExpSeries of the variable with %d coefficients", n+1), again, code, got)
+		wantList(t, fmt.Sprintf("ExpSeries of the variable with %d coefficients", n+1), again, code, got)
 	}
 	for _, n := range []int64{-1, impl.MaxTerms, impl.MaxTerms + 1, prime, math.MinInt64, math.MaxInt64, 1 << 32, -1 << 32} {
 		got, code := impl.ExponentialTo(n)
-		wantNoSeries(t, fmt.Sprintf("ExponentialTo(%d)", n), got, code, impl.ErrRange)
+		wantNone(t, fmt.Sprintf("ExponentialTo(%d)", n), got, code, impl.ErrRange)
 	}
 }
 
@@ -306,21 +282,21 @@ func TestPowersOfSeries(t *testing.T) {
 		want := unit(length)
 		for k := range int64(6) {
 			got, code := impl.PowerOfSeries(a, k)
-			wantSeries(t, fmt.Sprintf("PowerOfSeries(%v, %d)", a, k), got, code, want)
+			wantList(t, fmt.Sprintf("PowerOfSeries(%v, %d)", a, k), got, code, want)
 			want = plainSeries(want, a)
 		}
 		got, code := impl.PowerOfSeries(a, prime-1)
-		wantSeries(t, fmt.Sprintf("%v times its inverse", a), plainSeries(got, a), code, unit(length))
+		wantList(t, fmt.Sprintf("%v times its inverse", a), plainSeries(got, a), code, unit(length))
 		got, code = impl.PowerOfSeries(a, half)
-		wantSeries(t, fmt.Sprintf("the square of the root of %v", a), plainSeries(got, got), code, a)
+		wantList(t, fmt.Sprintf("the square of the root of %v", a), plainSeries(got, got), code, a)
 		k, m := draw.below(prime), draw.below(prime)
 		first, second := must(impl.PowerOfSeries(a, k)), must(impl.PowerOfSeries(a, m))
 		got, code = impl.PowerOfSeries(a, (k+m)%prime)
-		wantSeries(t, fmt.Sprintf("PowerOfSeries(%v, %d + %d)", a, k, m), got, code, plainSeries(first, second))
+		wantList(t, fmt.Sprintf("PowerOfSeries(%v, %d + %d)", a, k, m), got, code, plainSeries(first, second))
 		got, code = impl.PowerOfSeries(first, m)
-		wantSeries(t, fmt.Sprintf("PowerOfSeries(PowerOfSeries(%v, %d), %d)", a, k, m), got, code, must(impl.PowerOfSeries(a, k*m%prime)))
+		wantList(t, fmt.Sprintf("PowerOfSeries(PowerOfSeries(%v, %d), %d)", a, k, m), got, code, must(impl.PowerOfSeries(a, k*m%prime)))
 		got, code = impl.PowerOfSeries(plainSeries(a, b), k)
-		wantSeries(t, fmt.Sprintf("PowerOfSeries(%v times %v, %d)", a, b, k), got, code, plainSeries(first, must(impl.PowerOfSeries(b, k))))
+		wantList(t, fmt.Sprintf("PowerOfSeries(%v times %v, %d)", a, b, k), got, code, plainSeries(first, must(impl.PowerOfSeries(b, k))))
 	})
 }
 
@@ -331,7 +307,7 @@ func TestBinomialSeries(t *testing.T) {
 			want[n], _ = impl.DivideNumbers(want[n-1]*remainder(k-n+1)%prime, n)
 		}
 		got, code := impl.PowerOfSeries(begun(make([]int64, impl.MaxTerms), 1, 1), k)
-		wantSeries(t, fmt.Sprintf("PowerOfSeries of 1 + z and %d", k), got, code, want)
+		wantList(t, fmt.Sprintf("PowerOfSeries of 1 + z and %d", k), got, code, want)
 	}
 }
 
@@ -340,18 +316,18 @@ func TestComposeSeries(t *testing.T) {
 	forLengths(17, func(draw *drawer, length int) {
 		a, b, c := draw.drawn(length), draw.drawn(length, 0), draw.drawn(length, 0)
 		got, code := impl.ComposeSeries(a, b)
-		wantSeries(t, fmt.Sprintf("ComposeSeries(%v, %v)", a, b), got, code, plainComposition(a, b))
+		wantList(t, fmt.Sprintf("ComposeSeries(%v, %v)", a, b), got, code, plainComposition(a, b))
 		left, code := impl.ComposeSeries(got, c)
-		wantSeries(t, fmt.Sprintf("composing %v, %v and %v", a, b, c), left, code, must(impl.ComposeSeries(a, must(impl.ComposeSeries(b, c)))))
+		wantList(t, fmt.Sprintf("composing %v, %v and %v", a, b, c), left, code, must(impl.ComposeSeries(a, must(impl.ComposeSeries(b, c)))))
 		d := draw.drawn(length)
 		product, code := impl.ComposeSeries(plainSeries(a, d), b)
-		wantSeries(t, fmt.Sprintf("composing %v times %v with %v", a, d, b), product, code, plainSeries(got, must(impl.ComposeSeries(d, b))))
+		wantList(t, fmt.Sprintf("composing %v times %v with %v", a, d, b), product, code, plainSeries(got, must(impl.ComposeSeries(d, b))))
 		got, code = impl.ComposeSeries(a, variable(length))
-		wantSeries(t, fmt.Sprintf("ComposeSeries(%v, the variable)", a), got, code, a)
+		wantList(t, fmt.Sprintf("ComposeSeries(%v, the variable)", a), got, code, a)
 		got, code = impl.ComposeSeries(variable(length), b)
-		wantSeries(t, fmt.Sprintf("ComposeSeries(the variable, %v)", b), got, code, b)
+		wantList(t, fmt.Sprintf("ComposeSeries(the variable, %v)", b), got, code, b)
 		got, code = impl.ComposeSeries(a, make([]int64, length))
-		wantSeries(t, fmt.Sprintf("ComposeSeries(%v, 0)", a), got, code, begun(make([]int64, length), a[0]))
+		wantList(t, fmt.Sprintf("ComposeSeries(%v, 0)", a), got, code, begun(make([]int64, length), a[0]))
 	})
 }
 
@@ -363,7 +339,7 @@ func TestComposeSeriesWithGaps(t *testing.T) {
 			a, b := draw.list(length), draw.list(length)
 			clear(b[:gap])
 			got, code := impl.ComposeSeries(a, b)
-			wantSeries(t, fmt.Sprintf("ComposeSeries(%v, %v)", a, b), got, code, plainComposition(a, b))
+			wantList(t, fmt.Sprintf("ComposeSeries(%v, %v)", a, b), got, code, plainComposition(a, b))
 		}
 	}
 }
@@ -382,10 +358,10 @@ func TestReverseSeries(t *testing.T) {
 				t.Errorf("%s = %v, code %d", call, got, code)
 				continue
 			}
-			wantSeries(t, "composing with "+call, plainComposition(a, got), code, variable(length))
-			wantSeries(t, "composing "+call+" with it", plainComposition(got, a), code, variable(length))
+			wantList(t, "composing with "+call, plainComposition(a, got), code, variable(length))
+			wantList(t, "composing "+call+" with it", plainComposition(got, a), code, variable(length))
 			again, code := impl.ReverseSeries(got)
-			wantSeries(t, "reversing "+call, again, code, a)
+			wantList(t, "reversing "+call, again, code, a)
 		}
 	})
 }
@@ -409,7 +385,7 @@ func TestShorterSeries(t *testing.T) {
 	full := results(impl.MaxTerms)
 	for length := 1; length < impl.MaxTerms; length++ {
 		for i, list := range results(length) {
-			wantSeries(t, fmt.Sprintf("operation %d with %d coefficients", i, length), list, impl.ErrNone, full[i][:length])
+			wantList(t, fmt.Sprintf("operation %d with %d coefficients", i, length), list, impl.ErrNone, full[i][:length])
 		}
 	}
 }
@@ -418,23 +394,23 @@ func TestSeriesInvalid(t *testing.T) {
 	for _, bad := range notSeries() {
 		for name, operation := range ofOneSeries {
 			got, code := operation(bad)
-			wantNoSeries(t, fmt.Sprintf("%s(%v)", name, bad), got, code, impl.ErrInvalid)
+			wantNone(t, fmt.Sprintf("%s(%v)", name, bad), got, code, impl.ErrInvalid)
 		}
 		for name, operation := range ofTwoSeries {
 			// Where there is a bad list, dividing by 0 and composing with 1 or more are not looked at.
 			for _, good := range [][]int64{{0}, {1}, {2, 0}, make([]int64, impl.MaxTerms)} {
 				got, code := operation(bad, good)
-				wantNoSeries(t, fmt.Sprintf("%s(%v, %v)", name, bad, good), got, code, impl.ErrInvalid)
+				wantNone(t, fmt.Sprintf("%s(%v, %v)", name, bad, good), got, code, impl.ErrInvalid)
 				got, code = operation(good, bad)
-				wantNoSeries(t, fmt.Sprintf("%s(%v, %v)", name, good, bad), got, code, impl.ErrInvalid)
+				wantNone(t, fmt.Sprintf("%s(%v, %v)", name, good, bad), got, code, impl.ErrInvalid)
 			}
 			got, code := operation(bad, bad)
-			wantNoSeries(t, fmt.Sprintf("%s(%v, the same)", name, bad), got, code, impl.ErrInvalid)
+			wantNone(t, fmt.Sprintf("%s(%v, the same)", name, bad), got, code, impl.ErrInvalid)
 		}
 		for name, operation := range ofSeriesAndNumber {
 			for _, k := range append([]int64{0, 1, prime - 1}, notNumbers...) {
 				got, code := operation(bad, k)
-				wantNoSeries(t, fmt.Sprintf("%s(%v, %d)", name, bad, k), got, code, impl.ErrInvalid)
+				wantNone(t, fmt.Sprintf("%s(%v, %d)", name, bad, k), got, code, impl.ErrInvalid)
 			}
 		}
 	}
@@ -449,9 +425,9 @@ func TestSeriesOfDifferentLengths(t *testing.T) {
 					continue
 				}
 				got, code := operation(a, b)
-				wantNoSeries(t, fmt.Sprintf("%s(%v, %v)", name, a, b), got, code, impl.ErrInvalid)
+				wantNone(t, fmt.Sprintf("%s(%v, %v)", name, a, b), got, code, impl.ErrInvalid)
 				got, code = operation(b, a)
-				wantNoSeries(t, fmt.Sprintf("%s(%v, %v)", name, b, a), got, code, impl.ErrInvalid)
+				wantNone(t, fmt.Sprintf("%s(%v, %v)", name, b, a), got, code, impl.ErrInvalid)
 			}
 		}
 	}
@@ -463,7 +439,7 @@ func TestSeriesRange(t *testing.T) {
 		for _, bad := range notNumbers {
 			for name, operation := range ofSeriesAndNumber {
 				got, code := operation(a, bad)
-				wantNoSeries(t, fmt.Sprintf("%s(%v, %d)", name, a, bad), got, code, impl.ErrRange)
+				wantNone(t, fmt.Sprintf("%s(%v, %d)", name, a, bad), got, code, impl.ErrRange)
 			}
 		}
 	}
@@ -484,7 +460,7 @@ func TestSeriesState(t *testing.T) {
 						if isGood && (len(got) != length || code != impl.ErrNone) {
 							t.Errorf("%s with %v = %v, code %d", name, a, got, code)
 						} else if !isGood {
-							wantNoSeries(t, fmt.Sprintf("%s with %v", name, a), got, code, impl.ErrState)
+							wantNone(t, fmt.Sprintf("%s with %v", name, a), got, code, impl.ErrState)
 						}
 					}
 				}
