@@ -11,20 +11,15 @@ import (
 	"loop.example/g01100/impl"
 )
 
-// The functions of chapter 3 that take one tree, by the kinds of their results.
-var (
-	treeToList = map[string]func([]int64) ([]int64, int64){
-		"CanonicalTree": impl.CanonicalTree,
-	}
-	treeToNumber = map[string]func([]int64) (int64, int64){
-		"HeightOf":     impl.HeightOf,
-		"LeavesOf":     impl.LeavesOf,
-		"SymmetryOf":   impl.SymmetryOf,
-		"DensityOf":    impl.DensityOf,
-		"LabellingsOf": impl.LabellingsOf,
-		"IndexOf":      impl.IndexOf,
-	}
-)
+// treeToNumber has the functions of chapter 3 that make a number of one tree.
+var treeToNumber = map[string]func([]int64) (int64, int64){
+	"HeightOf":     impl.HeightOf,
+	"LeavesOf":     impl.LeavesOf,
+	"SymmetryOf":   impl.SymmetryOf,
+	"DensityOf":    impl.DensityOf,
+	"LabellingsOf": impl.LabellingsOf,
+	"IndexOf":      impl.IndexOf,
+}
 
 // A plainTree has all level lists of a tree, the lexicographically greatest one first.
 type plainTree [][]int64
@@ -438,10 +433,8 @@ func TestTreesInvalid(t *testing.T) {
 			got, code := operation(bad)
 			wantFault(t, fmt.Sprintf("%s(%v)", name, bad), got, code, impl.ErrInvalid)
 		}
-		for name, operation := range treeToList {
-			got, code := operation(bad)
-			wantNone(t, fmt.Sprintf("%s(%v)", name, bad), got, code, impl.ErrInvalid)
-		}
+		list, code := impl.CanonicalTree(bad)
+		wantNone(t, fmt.Sprintf("CanonicalTree(%v)", bad), list, code, impl.ErrInvalid)
 		rows, code := impl.BranchesOf(bad)
 		wantNone(t, fmt.Sprintf("BranchesOf(%v)", bad), rows, code, impl.ErrInvalid)
 		if text, code := impl.TreeText(bad); text != "" || code != impl.ErrInvalid {
