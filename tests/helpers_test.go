@@ -54,6 +54,22 @@ func wantText(t *testing.T, call string, got string, code int64, want string) {
 	}
 }
 
+// wantTruth checks a bool and a code that a call has returned.
+func wantTruth(t *testing.T, call string, got bool, code int64, want bool) {
+	t.Helper()
+	if got != want || code != impl.ErrNone {
+		t.Errorf("%s = %v, code %d; want %v", call, got, code, want)
+	}
+}
+
+// wantNoTruth checks that a call has returned an error code and false.
+func wantNoTruth(t *testing.T, call string, got bool, code int64, want int64) {
+	t.Helper()
+	if got || code != want {
+		t.Errorf("%s = %v, code %d; want false, code %d", call, got, code, want)
+	}
+}
+
 // must leaves nothing of a result beside an error code.
 func must[T any](list []T, code int64) []T {
 	if code != impl.ErrNone {
