@@ -9,14 +9,20 @@ import (
 	"loop.example/g01100/impl"
 )
 
+// plainParent finds the last node before a child with a level that is less by 1.
+func plainParent(list []int64, child int) int {
+	parent := child - 1
+	for list[parent] != list[child]-1 {
+		parent--
+	}
+	return parent
+}
+
 // plainReroot walks along the edges of a list, from a node to all others.
 func plainReroot(list []int64, node int) []int64 {
 	neighbours := make([][]int, len(list))
 	for child := 1; child < len(list); child++ {
-		parent := child - 1
-		for list[parent] != list[child]-1 {
-			parent--
-		}
+		parent := plainParent(list, child)
 		neighbours[parent] = append(neighbours[parent], child)
 		neighbours[child] = append(neighbours[child], parent)
 	}
